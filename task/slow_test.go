@@ -422,7 +422,26 @@ func sameAsSlow(t *testing.T, j api.Job, s api.State, deep, steps int, r api.Res
 	if task.May(j, s) && !task.May(j, a) {
 		t.Fatalf("P602: it comes to a state that can't be: %+v of %+v in %+v", a, s, j)
 	}
+	if task.May(j, s) {
+		sameKnown(t, j, s, deep, steps, r)
+	}
 	return a, e
+}
+
+// sameKnown holds the calls for states that are known to be against the slow ones.
+func sameKnown(t *testing.T, j api.Job, s api.State, deep, steps int, r api.Result) {
+	t.Helper()
+	a, e := task.RunKnown(j, s, deep, steps)
+	if b, v := slowRun(j, s, deep, steps); !same(a, b) || !sameEvent(e, v) {
+		t.Fatalf("P602: known: %+v, %+v, not %+v, %+v: %d steps of %+v at %d in %+v", a, e, b, v, steps, s, deep, j)
+	}
+	if !s.Waits {
+		return
+	}
+	a, e = task.ResumeKnown(j, s, r)
+	if b, v := slowResume(j, s, r); !same(a, b) || !sameEvent(e, v) {
+		t.Fatalf("P603: known: %+v, %+v, not %+v, %+v: %+v of %+v in %+v", a, e, b, v, r, s, j)
+	}
 }
 
 func slowTask(t *testing.T, number func(n int) int) {
@@ -442,6 +461,7 @@ func slowTask(t *testing.T, number func(n int) int) {
 			return
 		}
 		if s = after; e.Kind == api.Waiting {
+			sameAsSlow(t, j, s, deep, number(9)-1, r)
 			if s, e = task.Resume(j, s, r); e.Kind == api.Ended {
 				return
 			}
