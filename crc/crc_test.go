@@ -2,6 +2,7 @@ package crc_test
 
 import (
 	"bytes"
+	"encoding/binary"
 	"hash/crc32"
 	"math"
 	"math/rand"
@@ -184,6 +185,21 @@ func TestP201MoreLooksAtTheLowest32Bits(t *testing.T) {
 		if got := crc.More(sum); got != want {
 			t.Errorf("P201: More(%d) of nothing: %d, not %d", sum, got, want)
 		}
+	}
+}
+
+// Tail is how jobs and frames carry their sums.
+func TestP201Tail(t *testing.T) {
+	r := rand.New(rand.NewSource(207))
+	for range 1000 {
+		b := someBytes(r, r.Intn(60))
+		want := binary.LittleEndian.AppendUint32(nil, crc32.ChecksumIEEE(b))
+		if got := crc.Tail(pieces(r, b)...); !bytes.Equal(got, want) || len(got) != crc.TailLong {
+			t.Fatalf("P201: Tail of %v: %v, not %v", b, got, want)
+		}
+	}
+	if got := crc.Tail(); !bytes.Equal(got, make([]byte, 4)) {
+		t.Errorf("P201: Tail of nothing: %v", got)
 	}
 }
 
