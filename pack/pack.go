@@ -43,14 +43,33 @@ func (c *Cursor) Int() int {
 
 // Bytes reads the next text.
 func (c *Cursor) Bytes() []byte {
-	n := c.Int()
-	if n < 0 || n > c.Left() {
-		c.spoil()
-		return nil
-	}
+	n := c.count()
 	text := copyOf(c.rest[:n])
 	c.skip(n)
 	return text
+}
+
+// List reads how many things come, then each of them by one, which takes a byte of c at least. It ends at the first wrong byte, and makes no room ahead: the number may promise far more than what follows.
+func List[T any](c *Cursor, one func() T) []T {
+	n := c.count()
+	var out []T
+	for len(out) < n && !c.Bad() {
+		out = append(out, one())
+	}
+	if c.Bad() {
+		return nil
+	}
+	return out
+}
+
+// count reads a number of bytes, or of things that take one at least; 0, and c is Bad: there can't be so many.
+func (c *Cursor) count() int {
+	n := c.Int()
+	if n < 0 || n > c.Left() {
+		c.spoil()
+		return 0
+	}
+	return n
 }
 
 // place is where a cursor stands: what it has not read, and whether it met what no writer writes.

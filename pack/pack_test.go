@@ -5,6 +5,7 @@ import (
 	"math"
 	"math/big"
 	"math/rand"
+	"slices"
 	"testing"
 
 	"gleaner/pack"
@@ -315,6 +316,51 @@ func TestP102WrongTexts(t *testing.T) {
 	}
 	c.Bytes()
 	nothing(t, "a wrong text behind good ones", c)
+}
+
+// List is how jobs and notes read things of which there may be any number.
+func TestP102List(t *testing.T) {
+	c := pack.New([]byte{6, 2, 1, 128, 1, 0, 4, 4, 'a', 'b', 0, 10})
+	if l := pack.List(c, c.Int); !slices.Equal(l, []int{1, -1, 64}) {
+		t.Errorf("P102: numbers: %v", l)
+	}
+	if l := pack.List(c, c.Int); len(l) != 0 || c.Bad() {
+		t.Errorf("P102: no numbers: %v, Bad %v", l, c.Bad())
+	}
+	if l := pack.List(c, c.Bytes); len(l) != 2 || string(l[0]) != "ab" || len(l[1]) != 0 {
+		t.Errorf("P102: texts: %v", l)
+	}
+	if c.Int() != 5 || !c.End() {
+		t.Error("P102: behind the lists")
+	}
+}
+
+func TestP102WrongLists(t *testing.T) {
+	for _, b := range [][]byte{
+		nil,
+		{1, 2},
+		{3, 2, 2},
+		{2},
+		{4, 2},
+		{4, 2, 128},
+		{6, 2, 128, 0, 2},
+		{130, 0, 2},
+		pack.Int(nil, math.MaxInt, 1),
+		pack.Int(nil, math.MinInt, 1),
+		pack.Int(nil, 1<<32+1, 1),
+	} {
+		c := pack.New(b)
+		if l := pack.List(c, c.Int); len(l) != 0 {
+			t.Errorf("P102: a list of %v: %v", b, l)
+		}
+		nothing(t, b, c)
+	}
+	reads := 0
+	c := pack.New(append(append(pack.Int(nil, 1000), 2, 128, 0), make([]byte, 1000)...))
+	pack.List(c, func() int { reads++; return c.Int() })
+	if reads != 2 {
+		t.Errorf("P102: %d reads, the second of which is wrong", reads)
+	}
 }
 
 func TestP102AnyWalk(t *testing.T) {
